@@ -8,6 +8,17 @@ import (
 	"lictor/expr"
 )
 
+// Record reads an expression that begins with the sign of a record; if there is none, or it is not right, the reader goes no further, and tells expr.Read's error, and its place.
+func (r *Reader) Record() (api.Expr, api.Errno, int) {
+	if !r.comes("{") {
+		r.wrong = true
+		return api.Expr{}, api.ErrSyntax, r.Place()
+	}
+	e, n, why, place := expr.Read(r.tokens[r.at:], r.end)
+	r.at += n
+	return e, why, place
+}
+
 // Expr reads an expression; if it is not right, why it is not, and the reader goes on behind it all the same, as what follows may not be what may come.
 func (r *Reader) Expr() (api.Expr, api.Errno) {
 	if r.wrong {

@@ -1,4 +1,4 @@
-// Package reading reads from tokens what the texts of policies and of schemas share: names, entities, lists, expressions.
+// Package reading reads from tokens what the texts of policies, of schemas and of entities share: names, entities, lists, expressions.
 package reading
 
 import (
@@ -53,11 +53,16 @@ func (r *Reader) Word() string {
 	return ""
 }
 
-// Took goes on behind the word or the sign that is spelt so, if it comes.
-func (r *Reader) Took(spelt string) bool {
+// comes tells whether the word or the sign comes that is spelt so.
+func (r *Reader) comes(spelt string) bool {
 	t := r.Next()
 	word := 'a' <= spelt[0] && spelt[0] <= 'z'
-	if t.Text != spelt || t.Kind == api.TokenString || (t.Kind == api.TokenWord) != word {
+	return t.Text == spelt && t.Kind != api.TokenString && (t.Kind == api.TokenWord) == word
+}
+
+// Took goes on behind the word or the sign that is spelt so, if it comes.
+func (r *Reader) Took(spelt string) bool {
+	if !r.comes(spelt) {
 		return false
 	}
 	r.at++

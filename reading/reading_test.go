@@ -135,3 +135,33 @@ func TestExpressions(t *testing.T) {
 		}
 	}
 }
+
+// A record is read as expr.Read reads it: what is not right is not gone by.
+func TestRecords(t *testing.T) {
+	deep := strings.Repeat("[", 16) + strings.Repeat("]", 16)
+	for _, x := range []struct {
+		s     string
+		op    api.Op
+		why   api.Errno
+		told  int
+		wrong bool
+		place int
+	}{
+		{`{} ;`, api.OpRecord, api.OK, 0, false, 3}, {`{a: 1}`, api.OpRecord, api.OK, 0, false, 6}, {` {a: 1}.a }`, api.OpAttr, api.OK, 0, false, 10},
+		{` {a: 1, a: 2} }`, 0, api.ErrSyntax, 1, false, 1}, {`{a: ` + deep + `} x`, 0, api.ErrDepth, 0, false, 0}, {` {a 1}`, 0, api.ErrSyntax, 4, false, 1}, {`{`, 0, api.ErrSyntax, 1, false, 0},
+		{``, 0, api.ErrSyntax, 0, true, 0}, {` 1`, 0, api.ErrSyntax, 1, true, 1}, {`({})`, 0, api.ErrSyntax, 0, true, 0}, {`"{" }`, 0, api.ErrSyntax, 0, true, 0},
+	} {
+		r := of(t, x.s)
+		e, why, place := r.Record()
+		if e.Op != x.op || why != x.why || place != x.told {
+			t.Errorf("%q: op %d, error %d at %d", x.s, e.Op, why, place)
+		}
+		stands(t, &r, x.s, x.wrong, x.place)
+	}
+	r := of(t, `x {}`)
+	r.Must("y")
+	if e, why, place := r.Record(); e.Op != api.OpNone || why != api.ErrSyntax || place != 0 {
+		t.Errorf("behind what may not come: op %d, error %d at %d", e.Op, why, place)
+	}
+	stands(t, &r, "behind what may not come", true, 0)
+}
