@@ -10,13 +10,19 @@ func List[T comparable](l []T) []T {
 	return append([]T(nil), l...)
 }
 
+// each is a list of parts, each one in new memory as its own kind is.
+func each[T any](l []T, part func(T) T) []T {
+	l = append([]T(nil), l...)
+	for i := range l {
+		l[i] = part(l[i])
+	}
+	return l
+}
+
 // Value is a value, all its parts among it.
 func Value(v api.Value) api.Value {
 	v.Names = List(v.Names)
-	v.List = append([]api.Value(nil), v.List...)
-	for i := range v.List {
-		v.List[i] = Value(v.List[i])
-	}
+	v.List = each(v.List, Value)
 	return v
 }
 
@@ -29,9 +35,75 @@ func Entity(e api.Entity) api.Entity {
 
 // Entities are entities in a row.
 func Entities(l []api.Entity) []api.Entity {
-	l = append([]api.Entity(nil), l...)
-	for i := range l {
-		l[i] = Entity(l[i])
-	}
-	return l
+	return each(l, Entity)
+}
+
+// Expr is an expression, all its Kids among it.
+func Expr(e api.Expr) api.Expr {
+	e.Names = List(e.Names)
+	e.Kids = each(e.Kids, Expr)
+	return e
+}
+
+// Policy is a policy.
+func Policy(p api.Policy) api.Policy {
+	p.Principal, p.Action, p.Resource = scope(p.Principal), scope(p.Action), scope(p.Resource)
+	p.Conds = each(p.Conds, cond)
+	return p
+}
+
+func scope(s api.Scope) api.Scope {
+	s.Uids = List(s.Uids)
+	return s
+}
+
+func cond(c api.Cond) api.Cond {
+	c.Expr = Expr(c.Expr)
+	return c
+}
+
+// Policies are policies in a row.
+func Policies(l []api.Named) []api.Named {
+	return each(l, named)
+}
+
+func named(n api.Named) api.Named {
+	n.Policy = Policy(n.Policy)
+	return n
+}
+
+// Schema is a schema.
+func Schema(x api.Schema) api.Schema {
+	x.Types = each(x.Types, entityType)
+	x.Actions = each(x.Actions, action)
+	return x
+}
+
+func entityType(t api.EntityType) api.EntityType {
+	t.Parents = List(t.Parents)
+	t.Attrs = each(t.Attrs, attr)
+	return t
+}
+
+func action(a api.Action) api.Action {
+	a.Principals, a.Resources = List(a.Principals), List(a.Resources)
+	a.Context = each(a.Context, attr)
+	return a
+}
+
+func attr(a api.Attr) api.Attr {
+	a.Type = kind(a.Type)
+	return a
+}
+
+// kind is a type of values.
+func kind(t api.Type) api.Type {
+	t.Of = each(t.Of, kind)
+	t.Attrs = each(t.Attrs, attr)
+	return t
+}
+
+// State is a state.
+func State(s api.State) api.State {
+	return api.State{Schema: Schema(s.Schema), Policies: Policies(s.Policies), Entities: Entities(s.Entities)}
 }

@@ -50,3 +50,86 @@ func TestEmptyLists(t *testing.T) {
 		t.Error("an empty list is not nil")
 	}
 }
+
+// state is one with lists at all places.
+func state() api.State {
+	long := api.Type{Kind: api.TypeLong}
+	attrs := []api.Attr{{Name: "a", Type: api.Type{Kind: api.TypeSet, Of: []api.Type{long}}}, {Name: "b", Type: api.Type{Kind: api.TypeRecord, Attrs: []api.Attr{{Name: "c", Type: long}}}}}
+	names := []string{"A", "B"}
+	x := api.Schema{Types: []api.EntityType{{Name: "A", Parents: names, Attrs: attrs}}, Actions: []api.Action{{Id: "v", Principals: names, Resources: names, Context: attrs}}}
+	uids := []api.Uid{{Type: "A", Id: "x"}}
+	e := api.Expr{Op: api.OpRecord, Names: []string{"k"}, Kids: []api.Expr{{Op: api.OpSet, Kids: []api.Expr{{Op: api.OpLong, N: 1}}}}}
+	scope := api.Scope{Kind: api.ScopeEqual, Uids: uids}
+	p := api.Policy{Permit: true, Principal: scope, Action: scope, Resource: scope, Conds: []api.Cond{{Expr: e}, {Unless: true, Expr: e}}}
+	return api.State{Schema: x, Policies: []api.Named{{Id: "p", Policy: p}, {Id: "q", Policy: p}}, Entities: row()}
+}
+
+// spoil writes over all that lists of a value have, wherever they are.
+func spoil(v reflect.Value) {
+	switch v.Kind() {
+	case reflect.Struct:
+		for i := range v.NumField() {
+			spoil(v.Field(i))
+		}
+	case reflect.Slice:
+		for i := range v.Len() {
+			spoil(v.Index(i))
+			v.Index(i).SetZero()
+		}
+	}
+}
+
+// lists counts where each piece of memory that a value's lists have begins.
+func lists(v reflect.Value, begins map[uintptr]int) {
+	switch v.Kind() {
+	case reflect.Struct:
+		for i := range v.NumField() {
+			lists(v.Field(i), begins)
+		}
+	case reflect.Slice:
+		if v.Len() > 0 {
+			begins[v.Pointer()]++
+		}
+		for i := range v.Len() {
+			lists(v.Index(i), begins)
+		}
+	}
+}
+
+// A copy of a state, and of its parts, is as what it is of, stays so, and no two lists of it share memory.
+func TestCopiesOfStates(t *testing.T) {
+	one := state()
+	copies := []any{fresh.State(one), fresh.Schema(one.Schema), fresh.Policies(one.Policies), fresh.Policy(one.Policies[0].Policy), fresh.Expr(one.Policies[0].Policy.Conds[0].Expr)}
+	spoil(reflect.ValueOf(&one).Elem())
+	two := state()
+	for i, of := range []any{two, two.Schema, two.Policies, two.Policies[0].Policy, two.Policies[0].Policy.Conds[0].Expr} {
+		if !reflect.DeepEqual(copies[i], of) {
+			t.Errorf("%v, not %v", copies[i], of)
+		}
+		begins := map[uintptr]int{}
+		lists(reflect.ValueOf(copies[i]), begins)
+		for _, n := range begins {
+			if n > 1 {
+				t.Errorf("%d lists of a copy share memory: %v", n, copies[i])
+			}
+		}
+	}
+}
+
+// Empty lists of a copy of a state are nil.
+func TestEmptyListsOfStates(t *testing.T) {
+	none := api.State{Schema: api.Schema{Types: []api.EntityType{}, Actions: []api.Action{}}, Policies: []api.Named{}, Entities: []api.Entity{}}
+	if s := fresh.State(none); !reflect.DeepEqual(s, api.State{}) {
+		t.Errorf("%v", s)
+	}
+	scope := api.Scope{Uids: []api.Uid{}}
+	p := api.Policy{Principal: scope, Action: scope, Resource: scope, Conds: []api.Cond{{Expr: api.Expr{Names: []string{}, Kids: []api.Expr{}}}}}
+	if q := fresh.Policy(p); !reflect.DeepEqual(q, api.Policy{Conds: []api.Cond{{}}}) {
+		t.Errorf("%v", q)
+	}
+	attrs := []api.Attr{{Type: api.Type{Of: []api.Type{}, Attrs: []api.Attr{}}}}
+	x := api.Schema{Types: []api.EntityType{{Parents: []string{}, Attrs: attrs}}, Actions: []api.Action{{Principals: []string{}, Resources: []string{}, Context: attrs}}}
+	if y := fresh.Schema(x); !reflect.DeepEqual(y, api.Schema{Types: []api.EntityType{{Attrs: []api.Attr{{}}}}, Actions: []api.Action{{Context: []api.Attr{{}}}}}) {
+		t.Errorf("%v", y)
+	}
+}
