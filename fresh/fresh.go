@@ -107,3 +107,22 @@ func kind(t api.Type) api.Type {
 func State(s api.State) api.State {
 	return api.State{Schema: Schema(s.Schema), Policies: Policies(s.Policies), Entities: Entities(s.Entities)}
 }
+
+// Versions are versions.
+func Versions(v api.Versions) api.Versions {
+	v.States = each(v.States, State)
+	v.Lists = each(v.Lists, List)
+	return v
+}
+
+// Disk is a disk.
+func Disk(d api.Disk) api.Disk {
+	d.Sectors, d.Pending = List(d.Sectors), List(d.Pending)
+	return d
+}
+
+// Store is a store.
+func Store(s api.Store) api.Store {
+	s.Disk, s.Versions = Disk(s.Disk), Versions(s.Versions)
+	return s
+}

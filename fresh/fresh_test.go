@@ -116,6 +116,41 @@ func TestCopiesOfStates(t *testing.T) {
 	}
 }
 
+// store is one with lists at all places, of which some are the same memory.
+func store() api.Store {
+	sectors, l := []string{"a", "b"}, []api.Change{{Kind: api.ChangeForget, Id: "p"}, {Kind: api.ChangeForget, Id: "q"}}
+	d := api.Disk{Sectors: sectors, Pending: []api.Write{{Sector: 1, Data: "c"}}, Off: true, Fuse: 3}
+	v := api.Versions{First: 4, States: []api.State{state(), state(), {}}, Lists: [][]api.Change{l, l}}
+	return api.Store{Disk: d, Versions: v, Epoch: 5, At: 6, Count: 7}
+}
+
+// A copy of a store, and of its parts, is as what it is of, stays so, and no two lists of it share memory.
+func TestCopiesOfStores(t *testing.T) {
+	one := store()
+	copies := []any{fresh.Store(one), fresh.Versions(one.Versions), fresh.Disk(one.Disk)}
+	spoil(reflect.ValueOf(&one).Elem())
+	two := store()
+	for i, of := range []any{two, two.Versions, two.Disk} {
+		if !reflect.DeepEqual(copies[i], of) {
+			t.Errorf("%v, not %v", copies[i], of)
+		}
+		begins := map[uintptr]int{}
+		lists(reflect.ValueOf(copies[i]), begins)
+		for _, n := range begins {
+			if n > 1 {
+				t.Errorf("%d lists of a copy share memory: %v", n, copies[i])
+			}
+		}
+	}
+	none := api.Store{Disk: api.Disk{Sectors: []string{}, Pending: []api.Write{}}, Versions: api.Versions{States: []api.State{}, Lists: [][]api.Change{}}}
+	if s := fresh.Store(none); !reflect.DeepEqual(s, api.Store{}) {
+		t.Errorf("%v", s)
+	}
+	if v := fresh.Versions(api.Versions{Lists: [][]api.Change{{}}}); v.Lists[0] != nil {
+		t.Errorf("%v", v)
+	}
+}
+
 // Empty lists of a copy of a state are nil.
 func TestEmptyListsOfStates(t *testing.T) {
 	none := api.State{Schema: api.Schema{Types: []api.EntityType{}, Actions: []api.Action{}}, Policies: []api.Named{}, Entities: []api.Entity{}}
