@@ -126,3 +126,15 @@ func Store(s api.Store) api.Store {
 	s.Disk, s.Versions = Disk(s.Disk), Versions(s.Versions)
 	return s
 }
+
+// Server is a service.
+func Server(s api.Server) api.Server {
+	s.Store = Store(s.Store)
+	s.Open = each(s.Open, tx)
+	return s
+}
+
+func tx(t api.Tx) api.Tx {
+	t.List = List(t.List)
+	return t
+}

@@ -151,6 +151,35 @@ func TestCopiesOfStores(t *testing.T) {
 	}
 }
 
+// server is one with lists at all places, of which some are the same memory.
+func server() api.Server {
+	l := []api.Change{{Kind: api.ChangeForget, Id: "p"}}
+	return api.Server{Store: store(), Up: true, Open: []api.Tx{{N: 1, List: l}, {N: 2, List: l}, {N: 3}}, Last: 4}
+}
+
+// A copy of a service is as what it is of, stays so, and no two lists of it share memory.
+func TestCopiesOfServices(t *testing.T) {
+	one := server()
+	two := fresh.Server(one)
+	spoil(reflect.ValueOf(&one).Elem())
+	if !reflect.DeepEqual(two, server()) {
+		t.Errorf("%v", two)
+	}
+	begins := map[uintptr]int{}
+	lists(reflect.ValueOf(two), begins)
+	for _, n := range begins {
+		if n > 1 {
+			t.Errorf("%d lists of a copy share memory", n)
+		}
+	}
+	if s := fresh.Server(api.Server{Open: []api.Tx{{List: []api.Change{}}}}); s.Open[0].List != nil {
+		t.Errorf("%v", s)
+	}
+	if s := fresh.Server(api.Server{Open: []api.Tx{}}); !reflect.DeepEqual(s, api.Server{}) {
+		t.Errorf("%v", s)
+	}
+}
+
 // Empty lists of a copy of a state are nil.
 func TestEmptyListsOfStates(t *testing.T) {
 	none := api.State{Schema: api.Schema{Types: []api.EntityType{}, Actions: []api.Action{}}, Policies: []api.Named{}, Entities: []api.Entity{}}
